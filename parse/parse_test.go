@@ -409,6 +409,48 @@ func TestP1002Nest(t *testing.T) {
 	}
 }
 
+// Brackets are signs: a word of another kind opens nothing and closes nothing, whatever its letters.
+func TestP1002NestSignsAlone(t *testing.T) {
+	sign := func(s string) api.Word { return api.Word{Kind: api.WordSign, S: s} }
+	for _, kind := range []int{api.WordEnd, api.WordName, api.WordNum, api.WordText, api.WordKey, -1, 6, 1 << 40} {
+		for _, s := range []string{"(", "{", ")", "}"} {
+			w := api.Word{Kind: kind, S: s}
+			for _, c := range []struct {
+				l []api.Word
+				n int
+			}{
+				{[]api.Word{w}, 0}, {[]api.Word{w, w, w}, 0},
+				{[]api.Word{w, sign("(")}, 1}, {[]api.Word{sign("{"), w}, 1},
+				{[]api.Word{sign("("), w, sign("(")}, 2}, {[]api.Word{sign("{"), w, sign("{"), w}, 2},
+				{[]api.Word{sign("("), w, sign(")"), w, sign("{")}, 1},
+			} {
+				if n := Nest(c.l); n != c.n {
+					t.Errorf("%v: %d, not %d", c.l, n, c.n)
+				}
+			}
+		}
+	}
+}
+
+// A key is a word of that kind alone, and a sign likewise: each is none of the other kind.
+func TestP1002KeysAndSigns(t *testing.T) {
+	for _, literal := range literals() {
+		s := strings.Trim(literal, `"`)
+		kind := api.WordSign
+		if lex.Key(s) {
+			kind = api.WordKey
+		}
+		for k := -1; k < 8; k++ {
+			if got := is(api.Word{Kind: k, S: s}, s); got != (k == kind) {
+				t.Errorf("%q of kind %d: %v", s, k, got)
+			}
+			if is(api.Word{Kind: k, S: s + s}, s) || is(api.Word{Kind: k}, s) {
+				t.Errorf("%q is told of others of kind %d", s, k)
+			}
+		}
+	}
+}
+
 func TestP1002Header(t *testing.T) {
 	s, l, no := Header("package if; import \"b\"; import \"a\"; import \"b\"; func f() { }")
 	if s != "if" || !slices.Equal(l, []string{"b", "a", "b"}) || no != api.OK {

@@ -1,6 +1,9 @@
 package parse
 
-import "treadmill/api"
+import (
+	"treadmill/api"
+	"treadmill/lex"
+)
 
 // reader takes words from their front. From the first wrong one on it has none left, so that all reading ends.
 type reader struct {
@@ -87,7 +90,11 @@ func list[T any](r *reader, part func() T) []T {
 	return l
 }
 
-// is tells whether a word is a key or a sign. A text between two " may have a key's letters.
+// is tells whether a word is a key or a sign. A text can be just one of these, and a word of another kind is neither, whatever its letters.
 func is(w api.Word, s string) bool {
-	return (w.Kind == api.WordKey || w.Kind == api.WordSign) && w.S == s
+	kind := api.WordSign
+	if lex.Key(s) {
+		kind = api.WordKey
+	}
+	return w.Kind == kind && w.S == s
 }
